@@ -1,0 +1,23 @@
+// Package copies makes values anew, so that an answer shares no memory with what was handed in. It stands on api alone, and is no layer of its own.
+package copies
+
+import (
+	"slices"
+
+	"plexus/api"
+)
+
+// Cell answers a cell that is the same and shares no list with it. It asks nothing of the cell: those that may not be are answered as they are, too.
+func Cell(c api.Cell) api.Cell {
+	c.Amounts = slices.Clone(c.Amounts)
+	c.Writes = slices.Clone(c.Writes)
+	c.Members = slices.Clone(c.Members)
+	for i, m := range c.Members {
+		c.Members[i].Marks = slices.Clone(m.Marks)
+	}
+	c.Elems = slices.Clone(c.Elems)
+	for i, e := range c.Elems {
+		c.Elems[i].Gone = slices.Clone(e.Gone)
+	}
+	return c
+}

@@ -1,0 +1,70 @@
+package copies_test
+
+import (
+	"reflect"
+	"testing"
+
+	"plexus/api"
+	"plexus/copies"
+)
+
+// mark answers a Mark.
+func mark(peer int, seq int, index int) api.Mark {
+	return api.Mark{Dot: api.Dot{Peer: peer, Seq: seq}, Index: index}
+}
+
+// full answers a cell with something in each list, made anew each time.
+func full() api.Cell {
+	return api.Cell{
+		Kind:    9,
+		Base:    -4,
+		Amounts: []api.Amount{{Mark: mark(1, 1, 1), N: 3}, {}},
+		Writes:  []api.Write{{Mark: mark(1, 2, 1), Time: 5, Text: "w"}, {}},
+		Members: []api.Member{{Text: "m", Base: true, Marks: []api.Mark{mark(1, 3, 1), mark(1, 3, 2)}}, {}},
+		Elems:   []api.Elem{{Mark: mark(1, 4, 1), Time: 6, Ref: mark(1, 4, 0), Text: "e", Gone: []api.Mark{mark(1, 5, 1)}}, {}},
+	}
+}
+
+// spoil writes over all that a cell's lists hold.
+func spoil(c api.Cell) {
+	c.Amounts[0].N, c.Writes[0].Text = 77, "spoilt"
+	c.Members[0].Marks[1], c.Elems[0].Gone[0] = mark(7, 7, 7), mark(7, 7, 7)
+	c.Members[0].Text, c.Elems[0].Text = "spoilt", "spoilt"
+	c.Members[1].Marks, c.Elems[1].Gone = []api.Mark{{}}, []api.Mark{{}}
+}
+
+// R3: a copy is the same, whatever the cell is.
+func TestCellIsTheSame(t *testing.T) {
+	for _, c := range []api.Cell{{}, {Kind: api.Counter, Base: 5}, full()} {
+		if got := copies.Cell(c); !reflect.DeepEqual(got, c) {
+			t.Errorf("%+v, want %+v", got, c)
+		}
+	}
+}
+
+// R3: neither is changed by what is done to the other one's lists, inner ones too.
+func TestCellSharesNothing(t *testing.T) {
+	given := full()
+	got := copies.Cell(given)
+	spoil(got)
+	if !reflect.DeepEqual(given, full()) {
+		t.Errorf("the argument: %+v", given)
+	}
+	got = copies.Cell(given)
+	spoil(given)
+	if !reflect.DeepEqual(got, full()) {
+		t.Errorf("the copy: %+v", got)
+	}
+}
+
+// R3, R7: nothing is appended to the room behind a list that was handed in.
+func TestCellHasItsOwnRoom(t *testing.T) {
+	room := []api.Write{{Text: "a"}, {Text: "behind"}}
+	got := copies.Cell(api.Cell{Writes: room[:1]})
+	got.Writes = append(got.Writes, api.Write{Text: "b"})
+	empty := copies.Cell(api.Cell{Writes: room[:0]})
+	empty.Writes = append(empty.Writes, api.Write{Text: "b"})
+	if room[0].Text != "a" || room[1].Text != "behind" {
+		t.Errorf("%+v", room)
+	}
+}
