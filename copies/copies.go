@@ -21,3 +21,13 @@ func Cell(c api.Cell) api.Cell {
 	}
 	return c
 }
+
+// Fields answers fields that are the same and share no list with them, nor do their cells. It asks nothing of the fields.
+func Fields(l []api.Field) []api.Field {
+	l = slices.Clone(l)
+	for i, f := range l {
+		l[i].Marks = slices.Clone(f.Marks)
+		l[i].Cell = Cell(f.Cell)
+	}
+	return l
+}

@@ -68,3 +68,56 @@ func TestCellHasItsOwnRoom(t *testing.T) {
 		t.Errorf("%+v", room)
 	}
 }
+
+// fields answers two fields with something in each list, made anew each time.
+func fields() []api.Field {
+	return []api.Field{{Name: "f", Base: true, Marks: []api.Mark{mark(1, 6, 1), mark(1, 6, 2)}, Cell: full()}, {Cell: full()}}
+}
+
+// spoilFields writes over all that fields, and their lists, hold.
+func spoilFields(l []api.Field) {
+	for _, f := range l {
+		spoil(f.Cell)
+	}
+	l[0].Marks[1] = mark(7, 7, 7)
+	l[0].Name, l[0].Base, l[1].Marks = "spoilt", false, []api.Mark{{}}
+	l[1].Cell = api.Cell{}
+}
+
+// R3: a copy of fields is the same, whatever they are.
+func TestFieldsAreTheSame(t *testing.T) {
+	for _, l := range [][]api.Field{nil, {}, {{}}, fields()} {
+		if got := copies.Fields(l); !reflect.DeepEqual(got, l) {
+			t.Errorf("%+v, want %+v", got, l)
+		}
+	}
+}
+
+// R3: neither of two lists of fields is changed by what is done to the other one, inner lists too.
+func TestFieldsShareNothing(t *testing.T) {
+	given := fields()
+	got := copies.Fields(given)
+	spoilFields(got)
+	if !reflect.DeepEqual(given, fields()) {
+		t.Errorf("the argument: %+v", given)
+	}
+	got = copies.Fields(given)
+	spoilFields(given)
+	if !reflect.DeepEqual(got, fields()) {
+		t.Errorf("the copy: %+v", got)
+	}
+}
+
+// R3, R7: nothing is appended to the room behind a list of fields, nor behind their marks.
+func TestFieldsHaveTheirOwnRoom(t *testing.T) {
+	marks := []api.Mark{mark(1, 1, 1), mark(2, 2, 2)}
+	room := []api.Field{{Name: "a", Marks: marks[:1]}, {Name: "behind"}}
+	got := copies.Fields(room[:1])
+	got[0].Marks = append(got[0].Marks, mark(7, 7, 7))
+	got = append(got, api.Field{Name: "b"})
+	none := copies.Fields(room[:0])
+	none = append(none, api.Field{Name: "b"})
+	if room[0].Name != "a" || room[1].Name != "behind" || marks[1] != mark(2, 2, 2) {
+		t.Errorf("%+v, %+v", room, marks)
+	}
+}
