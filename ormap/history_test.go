@@ -118,8 +118,8 @@ func TestEveryOrder(t *testing.T) {
 			}
 			if first == nil {
 				first = got
-				askDropped(t, got, c)
 			}
+			askDropped(t, got, c)
 			askCheck(t, got, true)
 			ask(t, "another order", got, first)
 			count++
