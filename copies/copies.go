@@ -31,3 +31,10 @@ func Fields(l []api.Field) []api.Field {
 	}
 	return l
 }
+
+// Object answers an object that is the same and shares no list with it, neither of its cell nor of its fields. It asks nothing of the object.
+func Object(o api.Object) api.Object {
+	o.Cell = Cell(o.Cell)
+	o.Fields = Fields(o.Fields)
+	return o
+}

@@ -121,3 +121,52 @@ func TestFieldsHaveTheirOwnRoom(t *testing.T) {
 		t.Errorf("%+v, %+v", room, marks)
 	}
 }
+
+// object answers an object with something in each list, made anew each time.
+func object() api.Object {
+	return api.Object{Kind: 8, Key: "k", Cell: full(), Fields: fields()}
+}
+
+// spoilObject writes over all that an object's lists hold.
+func spoilObject(o api.Object) {
+	spoil(o.Cell)
+	spoilFields(o.Fields)
+}
+
+// R3: a copy of an object is the same, whatever it is.
+func TestObjectIsTheSame(t *testing.T) {
+	for _, o := range []api.Object{{}, {Kind: api.Map, Key: "m", Fields: []api.Field{}}, {Key: "c", Cell: full()}, object()} {
+		if got := copies.Object(o); !reflect.DeepEqual(got, o) {
+			t.Errorf("%+v, want %+v", got, o)
+		}
+	}
+}
+
+// R3: neither of two objects is changed by what is done to the other one's lists, inner ones too.
+func TestObjectSharesNothing(t *testing.T) {
+	given := object()
+	got := copies.Object(given)
+	spoilObject(got)
+	if !reflect.DeepEqual(given, object()) {
+		t.Errorf("the argument: %+v", given)
+	}
+	got = copies.Object(given)
+	spoilObject(given)
+	if !reflect.DeepEqual(got, object()) {
+		t.Errorf("the copy: %+v", got)
+	}
+}
+
+// R3, R7: nothing is appended to the room behind an object's lists.
+func TestObjectHasItsOwnRoom(t *testing.T) {
+	fields := []api.Field{{Name: "a"}, {Name: "behind"}}
+	writes := []api.Write{{Text: "a"}, {Text: "behind"}}
+	for n := range 2 {
+		got := copies.Object(api.Object{Cell: api.Cell{Writes: writes[:n]}, Fields: fields[:n]})
+		got.Fields = append(got.Fields, api.Field{Name: "b"})
+		got.Cell.Writes = append(got.Cell.Writes, api.Write{Text: "b"})
+	}
+	if fields[0].Name != "a" || fields[1].Name != "behind" || writes[0].Text != "a" || writes[1].Text != "behind" {
+		t.Errorf("%+v, %+v", fields, writes)
+	}
+}
