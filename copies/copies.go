@@ -38,3 +38,12 @@ func Object(o api.Object) api.Object {
 	o.Fields = Fields(o.Fields)
 	return o
 }
+
+// Store answers a store that is the same and shares no list with it, nor do its objects. It asks nothing of the store.
+func Store(s api.Store) api.Store {
+	s.Objects = slices.Clone(s.Objects)
+	for i, o := range s.Objects {
+		s.Objects[i] = Object(o)
+	}
+	return s
+}

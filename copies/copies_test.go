@@ -170,3 +170,52 @@ func TestObjectHasItsOwnRoom(t *testing.T) {
 		t.Errorf("%+v, %+v", fields, writes)
 	}
 }
+
+// store answers a store with something in each list, made anew each time.
+func store() api.Store {
+	return api.Store{Objects: []api.Object{object(), {Kind: 1, Key: "l", Cell: full()}, object()}}
+}
+
+// spoilStore writes over all that a store's lists hold.
+func spoilStore(s api.Store) {
+	spoilObject(s.Objects[0])
+	spoilObject(s.Objects[2])
+	spoil(s.Objects[1].Cell)
+	s.Objects[0].Key, s.Objects[1] = "spoilt", api.Object{}
+}
+
+// R3: a copy of a store is the same, whatever it is.
+func TestStoreIsTheSame(t *testing.T) {
+	for _, s := range []api.Store{{}, {Objects: []api.Object{}}, {Objects: []api.Object{{}}}, store()} {
+		if got := copies.Store(s); !reflect.DeepEqual(got, s) {
+			t.Errorf("%+v, want %+v", got, s)
+		}
+	}
+}
+
+// R3: neither of two stores is changed by what is done to the other one's lists, inner ones too.
+func TestStoreSharesNothing(t *testing.T) {
+	given := store()
+	got := copies.Store(given)
+	spoilStore(got)
+	if !reflect.DeepEqual(given, store()) {
+		t.Errorf("the argument: %+v", given)
+	}
+	got = copies.Store(given)
+	spoilStore(given)
+	if !reflect.DeepEqual(got, store()) {
+		t.Errorf("the copy: %+v", got)
+	}
+}
+
+// R3, R7: nothing is appended to the room behind a store's objects.
+func TestStoreHasItsOwnRoom(t *testing.T) {
+	room := []api.Object{{Key: "a"}, {Key: "behind"}}
+	for n := range 2 {
+		got := copies.Store(api.Store{Objects: room[:n]})
+		got.Objects = append(got.Objects, api.Object{Key: "b"})
+	}
+	if room[0].Key != "a" || room[1].Key != "behind" {
+		t.Errorf("%+v", room)
+	}
+}
