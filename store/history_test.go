@@ -7,6 +7,7 @@ import (
 	"testing"
 
 	"plexus/api"
+	"plexus/model"
 	"plexus/ops"
 	"plexus/store"
 	"plexus/vec"
@@ -24,148 +25,6 @@ func (d deed) mark() api.Mark {
 	return api.Mark{Dot: d.tx.Dot, Index: d.index}
 }
 
-// sees tells whether a deed has seen another one.
-func (d deed) sees(other deed) bool {
-	return ops.Before(other.mark(), d.tx, d.index)
-}
-
-// leaf is what was done to one leaf: its deeds, and those that clear it.
-type leaf struct {
-	kind   int
-	deeds  []deed
-	clears []deed
-}
-
-// live tells whether no deed that clears the leaf has seen a deed.
-func (f leaf) live(d deed) bool {
-	return !slices.ContainsFunc(f.clears, func(c deed) bool { return c.sees(d) })
-}
-
-// unseen answers the live deeds of an act that none of those that take them away has seen.
-func (f leaf) unseen(act int, away func(d deed, by deed) bool) []deed {
-	var l []deed
-	for _, d := range f.deeds {
-		gone := func(by deed) bool { return away(d, by) && by.sees(d) }
-		if d.Act == act && f.live(d) && !slices.ContainsFunc(f.deeds, gone) {
-			l = append(l, d)
-		}
-	}
-	return l
-}
-
-// value answers what is to be read of the leaf, by chapter 17's words.
-func (f leaf) value() api.Value {
-	v := api.Value{Kind: f.kind}
-	switch f.kind {
-	case api.Counter:
-		for _, d := range f.deeds {
-			if f.live(d) {
-				v.N += d.N
-			}
-		}
-	case api.Last, api.Many:
-		l := f.unseen(api.ActPut, func(d deed, by deed) bool { return by.Act == api.ActPut })
-		slices.SortFunc(l, later)
-		if f.kind == api.Last {
-			l = l[:min(1, len(l))]
-		}
-		v.Texts = rising(l)
-	case api.Set:
-		v.Texts = rising(f.unseen(api.ActAdd, func(d deed, by deed) bool { return by.Act == api.ActDel && by.Text == d.Text }))
-	case api.Seq:
-		for _, d := range f.behind(api.Mark{}) {
-			del := func(by deed) bool { return by.Act == api.ActDel && by.Ref == d.mark() }
-			if f.live(d) && !slices.ContainsFunc(f.deeds, del) {
-				v.Texts = append(v.Texts, d.Text)
-			}
-		}
-	}
-	return v
-}
-
-// behind answers the insertions that count and stand behind a mark, however far, in their order.
-func (f leaf) behind(ref api.Mark) []deed {
-	var next, all []deed
-	for _, d := range f.deeds {
-		if d.Act == api.ActIns && d.Ref == ref && !f.seesGone(d) {
-			next = append(next, d)
-		}
-	}
-	slices.SortFunc(next, later)
-	for _, d := range next {
-		all = append(append(all, d), f.behind(d.mark())...)
-	}
-	return all
-}
-
-// seesGone tells whether an insertion has seen that its Ref is gone.
-func (f leaf) seesGone(d deed) bool {
-	del := func(by deed) bool { return by.Act == api.ActDel && by.Ref == d.Ref && d.sees(by) }
-	clear := func(by deed) bool { return d.sees(by) && ops.Before(d.Ref, by.tx, by.index) }
-	return d.Ref != api.Mark{} && (slices.ContainsFunc(f.deeds, del) || slices.ContainsFunc(f.clears, clear))
-}
-
-// later puts the deed of the greater time first, of one time the one of the greater mark.
-func later(a deed, b deed) int {
-	if a.tx.Time != b.tx.Time {
-		return b.tx.Time - a.tx.Time
-	}
-	if ops.Less(b.mark(), a.mark()) {
-		return -1
-	}
-	return 1
-}
-
-// rising answers the deeds' texts, rising, each once.
-func rising(l []deed) []string {
-	var all []string
-	for _, d := range l {
-		all = append(all, d.Text)
-	}
-	slices.Sort(all)
-	return slices.Compact(all)
-}
-
-// deedsOf answers all ops of transactions upon the object of a kind and key.
-func deedsOf(l []api.Tx, kind int, key string) []deed {
-	var all []deed
-	for _, x := range l {
-		for k, o := range x.Ops {
-			if o.Kind == kind && o.Key == key {
-				all = append(all, deed{x, k + 1, o})
-			}
-		}
-	}
-	return all
-}
-
-// defined answers what is to be read of an object, by chapter 17's words: of transactions alone, whatever their order.
-func defined(l []api.Tx, kind int, key string) api.Value {
-	all := deedsOf(l, kind, key)
-	if kind != api.Map {
-		return leaf{kind: kind, deeds: all}.value()
-	}
-	v := api.Value{Kind: api.Map}
-	for _, name := range fieldNames() {
-		for _, inner := range leaves() {
-			f := leaf{kind: inner}
-			for _, d := range all {
-				switch {
-				case d.Field != name || d.Inner != inner:
-				case d.Act == api.ActDrop:
-					f.clears = append(f.clears, d)
-				default:
-					f.deeds = append(f.deeds, d)
-				}
-			}
-			if slices.ContainsFunc(f.deeds, f.live) {
-				v.Fields = append(v.Fields, api.Named{Name: name, Value: f.value()})
-			}
-		}
-	}
-	return v
-}
-
 // fieldNames are those of histories' fields, rising.
 func fieldNames() []string {
 	return []string{"f", "g"}
@@ -176,12 +35,12 @@ func objectKeys() []string {
 	return []string{"a", "b", "none"}
 }
 
-// askReads asks whether each object reads as chapter 17 says of these transactions, one that nobody has made too.
+// askReads asks whether each object reads as layer 17 says of these transactions, one that nobody has made too.
 func askReads(t *testing.T, what string, s api.Store, done []api.Tx) {
 	t.Helper()
 	for _, kind := range kinds() {
 		for _, key := range objectKeys() {
-			if got, want := store.Read(s, kind, key), defined(done, kind, key); !same(got, want) {
+			if got, want := store.Read(s, kind, key), model.Read(done, kind, key); !same(got, want) {
 				t.Fatalf("%s: Read %d %q: %+v, want %+v, behind %+v", what, kind, key, got, want, done)
 			}
 		}
