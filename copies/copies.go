@@ -47,3 +47,18 @@ func Store(s api.Store) api.Store {
 	}
 	return s
 }
+
+// Tx answers a transaction that is the same and shares no list with it. It asks nothing of the transaction.
+func Tx(t api.Tx) api.Tx {
+	t.Ops = slices.Clone(t.Ops)
+	return t
+}
+
+// Txs answers transactions that are the same and share no list with them, nor with each other. It asks nothing of the transactions.
+func Txs(l []api.Tx) []api.Tx {
+	l = slices.Clone(l)
+	for i, t := range l {
+		l[i] = Tx(t)
+	}
+	return l
+}

@@ -219,3 +219,78 @@ func TestStoreHasItsOwnRoom(t *testing.T) {
 		t.Errorf("%+v", room)
 	}
 }
+
+// txs answers transactions with ops, made anew each time; the last one has none.
+func txs() []api.Tx {
+	ops := []api.Op{{Kind: 1, Key: "a", Act: 1, N: 3}, {Kind: 9, Text: "t", Ref: mark(1, 1, 1)}}
+	return []api.Tx{{Dot: api.Dot{Peer: 1, Seq: 2}, Deps: api.Vec{1: 1, 4: 7}, Time: 5, Ops: ops}, {Time: -1, Ops: []api.Op{{}}}, {}}
+}
+
+// spoilTxs writes over all that transactions, and their ops, hold.
+func spoilTxs(l []api.Tx) {
+	for k := range l {
+		for i := range l[k].Ops {
+			l[k].Ops[i] = api.Op{Text: "spoilt"}
+		}
+		l[k] = api.Tx{Time: 77}
+	}
+}
+
+// R3: copies of a transaction, and of several, are the same, whatever they are.
+func TestTxsAreTheSame(t *testing.T) {
+	for _, l := range [][]api.Tx{nil, {}, {{}}, {{Ops: []api.Op{}}}, txs()} {
+		if got := copies.Txs(l); !reflect.DeepEqual(got, l) {
+			t.Errorf("%+v, want %+v", got, l)
+		}
+		for _, x := range l {
+			if got := copies.Tx(x); !reflect.DeepEqual(got, x) {
+				t.Errorf("%+v, want %+v", got, x)
+			}
+		}
+	}
+}
+
+// R3: neither of two lists of transactions is changed by what is done to the other one, their ops too; nor is one transaction.
+func TestTxsShareNothing(t *testing.T) {
+	given := txs()
+	got, one := copies.Txs(given), copies.Tx(given[0])
+	spoilTxs(got)
+	spoilTxs([]api.Tx{one})
+	if !reflect.DeepEqual(given, txs()) {
+		t.Errorf("the argument: %+v", given)
+	}
+	got, one = copies.Txs(given), copies.Tx(given[0])
+	spoilTxs(given)
+	if !reflect.DeepEqual(got, txs()) || !reflect.DeepEqual(one, txs()[0]) {
+		t.Errorf("the copies: %+v, %+v", got, one)
+	}
+}
+
+// R3: transactions that have one list of ops are answered with one each.
+func TestTxsOfOneList(t *testing.T) {
+	ops := []api.Op{{N: 1}, {N: 2}}
+	got := copies.Txs([]api.Tx{{Ops: ops}, {Ops: ops}})
+	got[0].Ops[0].N = 77
+	if got[1].Ops[0].N != 1 || ops[0].N != 1 {
+		t.Errorf("%+v, %+v", got, ops)
+	}
+}
+
+// R3, R7: nothing is appended to the room behind a list of transactions, nor behind their ops.
+func TestTxsHaveTheirOwnRoom(t *testing.T) {
+	ops := []api.Op{{Text: "a"}, {Text: "behind"}}
+	room := []api.Tx{{Time: 1}, {Time: 2}}
+	for n := range 2 {
+		one := copies.Tx(api.Tx{Ops: ops[:n]})
+		one.Ops = append(one.Ops, api.Op{Text: "b"})
+		room[0].Ops = ops[:n]
+		got := copies.Txs(room[:n])
+		for k := range got {
+			got[k].Ops = append(got[k].Ops, api.Op{Text: "b"})
+		}
+		got = append(got, api.Tx{Time: 77})
+	}
+	if room[0].Time != 1 || room[1].Time != 2 || ops[0].Text != "a" || ops[1].Text != "behind" {
+		t.Errorf("%+v, %+v", room, ops)
+	}
+}
