@@ -62,3 +62,12 @@ func Txs(l []api.Tx) []api.Tx {
 	}
 	return l
 }
+
+// Disk answers a disk that is the same and shares no list with it, nor do its files. It asks nothing of the disk.
+func Disk(d api.Disk) api.Disk {
+	d.Files = slices.Clone(d.Files)
+	for i, f := range d.Files {
+		d.Files[i].Data = slices.Clone(f.Data)
+	}
+	return d
+}

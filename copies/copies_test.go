@@ -294,3 +294,58 @@ func TestTxsHaveTheirOwnRoom(t *testing.T) {
 		t.Errorf("%+v, %+v", room, ops)
 	}
 }
+
+// disk answers a disk with files, made anew each time; the last one has no bytes.
+func disk() api.Disk {
+	return api.Disk{Files: []api.File{{Name: "a", Data: []byte("ab"), Safe: 1}, {Name: "", Data: []byte("c"), Safe: -4}, {Safe: 9}}, Room: -1, Arm: -7, Dead: true}
+}
+
+// spoilDisk writes over all that a disk's lists hold.
+func spoilDisk(d api.Disk) {
+	d.Files[0].Data[1], d.Files[1].Data[0] = '!', '!'
+	d.Files[0].Safe, d.Files[1], d.Files[2].Data = 77, api.File{Name: "spoilt"}, []byte("!")
+}
+
+// R3: a copy of a disk is the same, whatever it is.
+func TestDiskIsTheSame(t *testing.T) {
+	for _, d := range []api.Disk{{}, {Files: []api.File{}, Room: 5}, {Files: []api.File{{Data: []byte{}}}, Arm: 3}, disk()} {
+		if got := copies.Disk(d); !reflect.DeepEqual(got, d) {
+			t.Errorf("%+v, want %+v", got, d)
+		}
+	}
+}
+
+// R3: neither of two disks is changed by what is done to the other one's lists, their files' bytes too.
+func TestDiskSharesNothing(t *testing.T) {
+	given := disk()
+	got := copies.Disk(given)
+	spoilDisk(got)
+	if !reflect.DeepEqual(given, disk()) {
+		t.Errorf("the argument: %+v", given)
+	}
+	got = copies.Disk(given)
+	spoilDisk(given)
+	if !reflect.DeepEqual(got, disk()) {
+		t.Errorf("the copy: %+v", got)
+	}
+}
+
+// R3, R7: nothing is appended to the room behind a disk's files, nor behind their bytes; files that have one list of bytes are answered with one each.
+func TestDiskHasItsOwnRoom(t *testing.T) {
+	data := []byte("ab")
+	room := []api.File{{Name: "a", Data: data[:1]}, {Name: "b", Data: data[:1]}, {Name: "behind"}}
+	for n := range 3 {
+		got := copies.Disk(api.Disk{Files: room[:n]})
+		for i := range got.Files {
+			got.Files[i].Data[0]++
+			got.Files[i].Data = append(got.Files[i].Data, '!')
+			if string(got.Files[i].Data) != "b!" {
+				t.Errorf("file %d: %q", i, got.Files[i].Data)
+			}
+		}
+		got.Files = append(got.Files, api.File{Name: "c"})
+	}
+	if room[0].Name != "a" || room[2].Name != "behind" || string(data) != "ab" {
+		t.Errorf("%+v, %q", room, data)
+	}
+}
