@@ -7,6 +7,12 @@ import (
 	"plexus/api"
 )
 
+// Nothing is promised of a tree with more parts within one another, or in all, than these; one that holds itself goes beyond them.
+const (
+	mostWithin = 1 << 16
+	mostParts  = 1 << 24
+)
+
 // Cell answers a cell that is the same and shares no list with it. It asks nothing of the cell: those that may not be are answered as they are, too.
 func Cell(c api.Cell) api.Cell {
 	c.Amounts = slices.Clone(c.Amounts)
@@ -70,4 +76,50 @@ func Disk(d api.Disk) api.Disk {
 		d.Files[i].Data = slices.Clone(f.Data)
 	}
 	return d
+}
+
+// Tree answers a tree that is the same and shares no list with it. It asks nothing of the tree but that it ends: one without end is answered as zero.
+func Tree(t api.Tree) api.Tree {
+	if partsLeft(t, mostWithin, mostParts) < 0 {
+		return api.Tree{}
+	}
+	return tree(t)
+}
+
+// Base answers a base that is the same and shares no list with it, nor do its stamp's trees and its store. It asks nothing of the base but what Tree asks of its trees.
+func Base(x api.Base) api.Base {
+	x.Stamp = api.Stamp{Id: Tree(x.Stamp.Id), Event: Tree(x.Stamp.Event)}
+	x.Store = Store(x.Store)
+	x.Joined = slices.Clone(x.Joined)
+	x.Left = slices.Clone(x.Left)
+	x.Heirs = slices.Clone(x.Heirs)
+	return x
+}
+
+// Kept answers what is kept, the same, that shares no list with it, neither of its base nor of its log. It asks no more of it than Base does.
+func Kept(k api.Kept) api.Kept {
+	k.Base = Base(k.Base)
+	k.Log = Txs(k.Log)
+	return k
+}
+
+// tree answers what Tree does, of one that ends.
+func tree(t api.Tree) api.Tree {
+	t.Kids = slices.Clone(t.Kids)
+	for i, k := range t.Kids {
+		t.Kids[i] = tree(k)
+	}
+	return t
+}
+
+// partsLeft answers how many of so many parts are left when those of t are taken from them, of a t that has at most within of them within one another; below 0: it has more.
+func partsLeft(t api.Tree, within int, left int) int {
+	left--
+	for _, k := range t.Kids {
+		if within == 0 || left < 0 {
+			return -1
+		}
+		left = partsLeft(k, within-1, left)
+	}
+	return left
 }

@@ -2,6 +2,7 @@ package copies_test
 
 import (
 	"reflect"
+	"slices"
 	"testing"
 
 	"plexus/api"
@@ -347,5 +348,144 @@ func TestDiskHasItsOwnRoom(t *testing.T) {
 	}
 	if room[0].Name != "a" || room[2].Name != "behind" || string(data) != "ab" {
 		t.Errorf("%+v, %q", room, data)
+	}
+}
+
+// tree answers a tree with Kids of all lengths, made anew each time.
+func tree() api.Tree {
+	return api.Tree{N: 5, Kids: []api.Tree{{N: -1}, {N: 2, Kids: []api.Tree{{}, {N: 3}, {N: 4, Kids: []api.Tree{{N: 9}}}}}, {Kids: []api.Tree{}}}}
+}
+
+// spoilTree writes over all that a tree's Kids hold, from below.
+func spoilTree(t api.Tree) {
+	for i, k := range t.Kids {
+		spoilTree(k)
+		t.Kids[i].N += 77
+	}
+}
+
+// R3: a copy of a tree is the same, whatever it is, and shares no Kids with it.
+func TestTree(t *testing.T) {
+	for _, x := range []api.Tree{{}, {N: -7}, {Kids: []api.Tree{}}, {Kids: make([]api.Tree, 3)}, tree()} {
+		if got := copies.Tree(x); !reflect.DeepEqual(got, x) {
+			t.Errorf("%+v, want %+v", got, x)
+		}
+	}
+	given := tree()
+	got := copies.Tree(given)
+	spoilTree(got)
+	if !reflect.DeepEqual(given, tree()) {
+		t.Errorf("the argument: %+v", given)
+	}
+	got = copies.Tree(given)
+	spoilTree(given)
+	if !reflect.DeepEqual(got, tree()) {
+		t.Errorf("the copy: %+v", got)
+	}
+}
+
+// chain answers a tree of so many parts within one another below it.
+func chain(n int) api.Tree {
+	t := api.Tree{N: 1}
+	for range n {
+		t = api.Tree{Kids: []api.Tree{t}}
+	}
+	return t
+}
+
+// R1: of trees that end there is a copy, up to 2^16 parts deep, and of many parts; one without end, or of more parts than anybody can tell, is answered as zero.
+func TestTreeEnds(t *testing.T) {
+	wide, long := api.Tree{Kids: make([]api.Tree, 1<<16)}, chain(1<<16)
+	for i := range wide.Kids {
+		wide.Kids[i].N = i
+	}
+	for i, x := range []api.Tree{wide, long} {
+		if got := copies.Tree(x); !reflect.DeepEqual(got, x) {
+			t.Errorf("tree %d is not the same", i)
+		}
+	}
+	ring := make([]api.Tree, 2)
+	ring[1].Kids = ring
+	// Each list stands in all places of the one above it: there are 2^24 and some more.
+	beyond := api.Tree{Kids: slices.Repeat([]api.Tree{{Kids: slices.Repeat([]api.Tree{{Kids: make([]api.Tree, 256)}}, 256)}}, 256)}
+	bush := api.Tree{N: 1}
+	for range 60 {
+		bush = api.Tree{Kids: []api.Tree{bush, bush}}
+	}
+	for i, x := range []api.Tree{beyond, chain(1<<16 + 1), {N: 3, Kids: ring}, ring[1], bush} {
+		if got := copies.Tree(x); got.N != 0 || got.Kids != nil {
+			t.Errorf("tree %d: %d, %d Kids", i, got.N, len(got.Kids))
+		}
+	}
+}
+
+// kept answers what is kept with something in each list, made anew each time.
+func kept() api.Kept {
+	return api.Kept{
+		Base: api.Base{
+			Self: -1, State: 9, Stamp: api.Stamp{Id: tree(), Event: tree()}, Boot: 4, Vec: api.Vec{1, 2, 3}, Cut: api.Vec{5: 7}, Time: -8,
+			Store: store(), Joined: []int{1, 1, 0}, Left: []int{2, -3}, Heirs: []int{99},
+		},
+		Pruned: api.Vec{12: 6}, Log: txs(), Seg: -5,
+	}
+}
+
+// spoilKept writes over all that the lists of what is kept hold.
+func spoilKept(k api.Kept) {
+	spoilTree(k.Base.Stamp.Id)
+	spoilTree(k.Base.Stamp.Event)
+	spoilStore(k.Base.Store)
+	k.Base.Joined[1], k.Base.Left[0], k.Base.Heirs[0] = 77, 77, 77
+	spoilTxs(k.Log)
+}
+
+// R3: a copy of what is kept, and of its base, is the same, whatever it is.
+func TestKeptIsTheSame(t *testing.T) {
+	for _, k := range []api.Kept{{}, {Base: api.Base{Joined: []int{}}, Log: []api.Tx{}}, {Log: []api.Tx{{}}}, kept()} {
+		if got := copies.Kept(k); !reflect.DeepEqual(got, k) {
+			t.Errorf("%+v, want %+v", got, k)
+		}
+		if got := copies.Base(k.Base); !reflect.DeepEqual(got, k.Base) {
+			t.Errorf("%+v, want %+v", got, k.Base)
+		}
+	}
+}
+
+// R3: neither of two that are kept is changed by what is done to the other one's lists, their base's among them.
+func TestKeptSharesNothing(t *testing.T) {
+	given := kept()
+	got := copies.Kept(given)
+	spoilKept(got)
+	if !reflect.DeepEqual(given, kept()) {
+		t.Errorf("the argument: %+v", given)
+	}
+	spoilKept(api.Kept{Base: copies.Base(given.Base), Log: txs()})
+	if !reflect.DeepEqual(given, kept()) {
+		t.Errorf("the argument: %+v", given)
+	}
+	got = copies.Kept(given)
+	alone := copies.Base(given.Base)
+	spoilKept(given)
+	if !reflect.DeepEqual(got, kept()) || !reflect.DeepEqual(alone, kept().Base) {
+		t.Errorf("the copies: %+v, %+v", got, alone)
+	}
+}
+
+// R3, R7: nothing is appended to the room behind the lists of what is kept.
+func TestKeptHasItsOwnRoom(t *testing.T) {
+	peers, log, kids := []int{1, 2}, []api.Tx{{Time: 1}, {Time: 2}}, []api.Tree{{N: 1}, {N: 2}}
+	for n := range 2 {
+		k := api.Kept{Base: api.Base{Stamp: api.Stamp{Id: api.Tree{Kids: kids[:n]}, Event: api.Tree{Kids: kids[:n]}}, Joined: peers[:n], Left: peers[:n], Heirs: peers[:n]}, Log: log[:n]}
+		k = copies.Kept(k)
+		for _, l := range []*[]int{&k.Base.Joined, &k.Base.Left, &k.Base.Heirs} {
+			*l = append(*l, 77)
+		}
+		for _, x := range []*api.Tree{&k.Base.Stamp.Id, &k.Base.Stamp.Event} {
+			x.Kids = append(x.Kids, api.Tree{N: 77})
+		}
+		k.Log = append(k.Log, api.Tx{Time: 77})
+	}
+	if peers[0] != 1 || peers[1] != 2 || log[0].Time != 1 || log[1].Time != 2 || kids[0].N != 1 || kids[1].N != 2 {
+		t.Errorf("%v, %+v, %+v", peers, log, kids)
 	}
 }
