@@ -103,6 +103,13 @@ func Kept(k api.Kept) api.Kept {
 	return k
 }
 
+// Views answers views that are the same and share no list with them. It asks nothing of the views.
+func Views(v api.Views) api.Views {
+	v.Active = slices.Clone(v.Active)
+	v.Passive = slices.Clone(v.Passive)
+	return v
+}
+
 // tree answers what Tree does, of one that ends.
 func tree(t api.Tree) api.Tree {
 	t.Kids = slices.Clone(t.Kids)

@@ -489,3 +489,39 @@ func TestKeptHasItsOwnRoom(t *testing.T) {
 		t.Errorf("%v, %+v, %+v", peers, log, kids)
 	}
 }
+
+// R3: a copy of views is the same, whatever they are, and shares neither list with them.
+func TestViews(t *testing.T) {
+	views := func() api.Views { return api.Views{Self: -3, Active: []int{9, 9, 0}, Passive: []int{-1}} }
+	for _, v := range []api.Views{{}, {Self: 5, Active: []int{}}, {Passive: []int{}}, views()} {
+		if got := copies.Views(v); !reflect.DeepEqual(got, v) {
+			t.Errorf("%+v, want %+v", got, v)
+		}
+	}
+	given := views()
+	got := copies.Views(given)
+	got.Active[1], got.Passive[0] = 77, 77
+	if !reflect.DeepEqual(given, views()) {
+		t.Errorf("the argument: %+v", given)
+	}
+	got = copies.Views(given)
+	given.Active[1], given.Passive[0] = 77, 77
+	if !reflect.DeepEqual(got, views()) {
+		t.Errorf("the copy: %+v", got)
+	}
+}
+
+// R3, R7: nothing is appended to the room behind views' lists; one list that is both is answered as two.
+func TestViewsHaveTheirOwnRoom(t *testing.T) {
+	room := []int{1, 2}
+	for n := range 2 {
+		got := copies.Views(api.Views{Active: room[:n], Passive: room[:n]})
+		got.Active, got.Passive = append(got.Active, 77), append(got.Passive, 78)
+		if got.Active[n] != 77 {
+			t.Errorf("%+v", got)
+		}
+	}
+	if room[0] != 1 || room[1] != 2 {
+		t.Errorf("%v", room)
+	}
+}
